@@ -294,14 +294,19 @@ func LadderText(l Ladder) (string, bool) {
 
 // listText returns the numbers with , between them, or - for none.
 func listText(numbers []int) string {
-	if len(numbers) == 0 {
-		return "-"
-	}
 	words := make([]string, len(numbers))
 	for i, number := range numbers {
 		words[i] = strconv.Itoa(number)
 	}
-	return strings.Join(words, ",")
+	return joined(words, ",")
+}
+
+// joined returns the words with a separator between them, or - for none.
+func joined(words []string, separator string) string {
+	if len(words) == 0 {
+		return "-"
+	}
+	return strings.Join(words, separator)
 }
 
 // readList returns the numbers of a text with , between them, or none for -.
